@@ -232,7 +232,7 @@ func chain(order []int) (a, b []api.Term) {
 
 // The equations are so many that they must not take quadratic time.
 func TestP7_2ManyVariables(t *testing.T) {
-	const count = 50000
+	const count = 150000
 	g := newMaker(5)
 	up := make([]int, count)
 	for i := range up {
@@ -250,12 +250,9 @@ func TestP7_2ManyVariables(t *testing.T) {
 	for _, order := range [][]int{up, down, g.random.Perm(count)} {
 		a, b := chain(order)
 		checkAll(t, a, b, free, api.OK)
-		checkAll(t, b, a, free, api.OK)
-		for _, v := range []int{3, count / 2, count + 3} {
-			end := functor("c", variable(2))
-			checkAll(t, append(a, end), append(b, variable(v)), bound, api.OK)
-			checkAll(t, append([]api.Term{end}, a...), append([]api.Term{variable(v)}, b...), bound, api.OK)
-		}
+		end := functor("c", variable(2))
+		checkAll(t, append(b, end), append(a, variable(count+3)), bound, api.OK)
+		checkAll(t, append([]api.Term{end}, a...), append([]api.Term{variable(count / 2)}, b...), bound, api.OK)
 		checkAll(t, append(a, functor("c", variable(count/2))), append(b, variable(count/3)), nil, api.ErrNone)
 		checkAll(t, append(a, number(1), variable(count)), append(b, variable(3), number(2)), nil, api.ErrNone)
 	}
